@@ -1,7 +1,6 @@
 package disk_test
 
 import (
-	"slices"
 	"strconv"
 	"strings"
 	"testing"
@@ -21,11 +20,6 @@ var (
 	longB   = strings.Repeat("l", long)
 	tooLong = strings.Repeat("l", long+1)
 )
-
-// twin answers a copy of d that shares nothing with it.
-func twin(d api.Disk) api.Disk {
-	return api.Disk{Now: slices.Clone(d.Now), Sure: slices.Clone(d.Sure)}
-}
 
 // sample answers a disk that may be: sectors that are sure, that are not, that never were put.
 func sample() api.Disk {

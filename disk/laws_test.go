@@ -4,6 +4,7 @@ import (
 	"strings"
 	"testing"
 
+	"flume/aid"
 	"flume/api"
 	"flume/disk"
 )
@@ -106,11 +107,7 @@ func TestAllShortRows(t *testing.T) {
 }
 
 func TestLongRows(t *testing.T) {
-	state := uint64(1)
-	roll := func(n int) int {
-		state = state*6364136223846793005 + 1442695040888963407
-		return int(state >> 33 % uint64(n))
-	}
+	roll := aid.Rolling(1)
 	for range 20 {
 		d, p := disk.New(), plain{}
 		for i := range 400 {

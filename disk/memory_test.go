@@ -3,43 +3,31 @@ package disk_test
 import (
 	"testing"
 
+	"flume/aid"
 	"flume/api"
 	"flume/disk"
 )
 
-const mark = "spare"
+var (
+	mark   = api.Sector{N: 3, B: "spare"}
+	spoilt = api.Sector{N: 77, B: "spoilt"}
+)
 
-// roomy answers d's like, each row with marked sectors in the room behind it.
 func roomy(d api.Disk) api.Disk {
-	widen := func(row []api.Sector) []api.Sector {
-		all := append([]api.Sector{}, row...)
-		for range 40 {
-			all = append(all, api.Sector{N: 3, B: mark})
-		}
-		return all[:len(row)]
-	}
-	return api.Disk{Now: widen(d.Now), Sure: widen(d.Sure)}
+	return api.Disk{Now: aid.Roomy(d.Now, mark), Sure: aid.Roomy(d.Sure, mark)}
 }
 
-// checkSpare looks whether the room behind a row is as roomy left it.
-func checkSpare(t *testing.T, what string, row []api.Sector) {
+// checkKept looks whether d is the sample still, and the room behind its rows as it was.
+func checkKept(t *testing.T, what string, d api.Disk) {
 	t.Helper()
-	for _, s := range row[len(row):cap(row)][:40] {
-		if s.N != 3 || s.B != mark {
-			t.Errorf("R4: %s wrote %v behind a row that was handed in", what, s)
-			return
-		}
-	}
+	aid.CheckRoom(t, what, d.Now, sample().Now, mark)
+	aid.CheckRoom(t, what, d.Sure, sample().Sure, mark)
 }
 
 // spoil changes all of a disk, and the room behind its rows.
 func spoil(d api.Disk) {
-	for _, row := range [][]api.Sector{d.Now, d.Sure} {
-		all := row[:cap(row)]
-		for i := range all {
-			all[i] = api.Sector{N: 77, B: "spoilt"}
-		}
-	}
+	aid.Fill(d.Now, spoilt)
+	aid.Fill(d.Sure, spoilt)
 }
 
 // acts answers calls that answer a disk.
@@ -69,41 +57,35 @@ func TestNothingHandedInIsChanged(t *testing.T) {
 	for name, act := range acts() {
 		d := roomy(sample())
 		act(d)
-		checkRows(t, "R4: handed in to "+name, d, sample())
-		checkSpare(t, name, d.Now)
-		checkSpare(t, name, d.Sure)
+		checkKept(t, name, d)
 	}
 	d := roomy(sample())
 	disk.Check(d)
 	disk.Get(d, 0)
 	disk.Same(d, d)
 	disk.Dirty(d)
-	checkRows(t, "R4: handed in to be asked", d, sample())
-	checkSpare(t, "asking", d.Now)
-	checkSpare(t, "asking", d.Sure)
+	checkKept(t, "asking", d)
 }
 
 func TestAnswersAreNewMemory(t *testing.T) {
 	for name, act := range acts() {
 		d := roomy(sample())
 		got, _ := act(d)
-		want := twin(got)
+		want := aid.Twin(got)
 		spoil(d)
 		checkRows(t, "R4: behind a change of what was handed in to "+name, got, want)
 
 		d = roomy(sample())
 		got, _ = act(d)
 		spoil(got)
-		checkRows(t, "R4: handed in, behind a change of the answer of "+name, d, sample())
-		checkSpare(t, "a change of the answer of "+name, d.Now)
-		checkSpare(t, "a change of the answer of "+name, d.Sure)
+		checkKept(t, "a change of the answer of "+name, d)
 	}
 }
 
 func TestTheRowsOfAnAnswerShareNothing(t *testing.T) {
 	for name, act := range acts() {
 		got, _ := act(sample())
-		want := twin(got)
+		want := aid.Twin(got)
 		spoil(api.Disk{Now: got.Now})
 		checkRows(t, "R4: the sure row, behind a change of what stands, of "+name, api.Disk{Sure: got.Sure}, api.Disk{Sure: want.Sure})
 	}
@@ -117,7 +99,7 @@ func TestTheSameTwiceIsTheSameInOtherMemory(t *testing.T) {
 		if e != f || !disk.Same(a, b) {
 			t.Errorf("R3: %s answers otherwise when it is done anew", name)
 		}
-		want := twin(a)
+		want := aid.Twin(a)
 		spoil(b)
 		checkRows(t, "R4: the answer of "+name+", behind a change of another one", a, want)
 	}

@@ -5,6 +5,7 @@ import (
 	"slices"
 	"testing"
 
+	"flume/aid"
 	"flume/api"
 	"flume/disk"
 )
@@ -125,7 +126,7 @@ func TestSameIsSectorBySector(t *testing.T) {
 
 func TestSameOfDisksThatMayNotBe(t *testing.T) {
 	for name, d := range wrongs() {
-		if !disk.Same(d, twin(d)) {
+		if !disk.Same(d, aid.Twin(d)) {
 			t.Errorf("P3.1: a disk with %s is not the same as itself", name)
 		}
 		if disk.Same(d, sample()) || disk.Same(sample(), d) {

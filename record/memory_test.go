@@ -5,37 +5,10 @@ import (
 	"slices"
 	"testing"
 
+	"flume/aid"
 	"flume/api"
 	"flume/record"
 )
-
-// roomy answers a copy of l with marked ones in the room behind it.
-func roomy[T any](l []T, mark T) []T {
-	all := append(slices.Clone(l), slices.Repeat([]T{mark}, 40)...)
-	return all[:len(l)]
-}
-
-// checkRoom looks whether l, and the room behind it, is as roomy left it.
-func checkRoom[T comparable](t *testing.T, what string, l, want []T, mark T) {
-	t.Helper()
-	if !slices.Equal(l, want) {
-		t.Errorf("R4: %s changed what was handed in: %v is %v", what, want, l)
-	}
-	for _, v := range l[len(l):cap(l)][:40] {
-		if v != mark {
-			t.Errorf("R4: %s wrote %v into spare room", what, v)
-			return
-		}
-	}
-}
-
-// fill puts mark in all of l, and in the room behind it.
-func fill[T any](l []T, mark T) {
-	all := l[:cap(l)]
-	for i := range all {
-		all[i] = mark
-	}
-}
 
 var (
 	markWrite = api.Write{Key: 77, Value: 78}
@@ -44,17 +17,17 @@ var (
 )
 
 func roomyState(s api.State) api.State {
-	s.Items = roomy(s.Items, markItem)
+	s.Items = aid.Roomy(s.Items, markItem)
 	for q := range s.Lines {
-		s.Lines[q] = roomy(s.Lines[q], markLine)
+		s.Lines[q] = aid.Roomy(s.Lines[q], markLine)
 	}
 	return s
 }
 
 func fillState(s api.State) {
-	fill(s.Items, markItem)
+	aid.Fill(s.Items, markItem)
 	for _, lines := range s.Lines {
-		fill(lines, markLine)
+		aid.Fill(lines, markLine)
 	}
 }
 
@@ -64,14 +37,14 @@ func TestRecordsHandedInStay(t *testing.T) {
 			continue
 		}
 		r := c.v
-		r.Writes = roomy(c.v.Writes, markWrite)
+		r.Writes = aid.Roomy(c.v.Writes, markWrite)
 		record.May(r)
 		record.Written(r.Writes)
 		record.Same(r, r)
 		b, _ := record.Bytes(r)
-		checkRoom(t, "asking of a record "+c.name, r.Writes, c.v.Writes, markWrite)
+		aid.CheckRoom(t, "asking of a record "+c.name, r.Writes, c.v.Writes, markWrite)
 		want := slices.Clone(b)
-		fill(r.Writes, markWrite)
+		aid.Fill(r.Writes, markWrite)
 		if !bytes.Equal(b, want) {
 			t.Errorf("R4: the bytes of a record %s follow what was handed in", c.name)
 		}
@@ -87,9 +60,9 @@ func TestStatesHandedInStay(t *testing.T) {
 		record.Stands(s)
 		record.SameState(s, s)
 		b, _ := record.StateBytes(s)
-		checkRoom(t, "asking of a state "+c.name, s.Items, c.v.Items, markItem)
+		aid.CheckRoom(t, "asking of a state "+c.name, s.Items, c.v.Items, markItem)
 		for q, lines := range s.Lines {
-			checkRoom(t, "asking of a state "+c.name, lines, c.v.Lines[q], markLine)
+			aid.CheckRoom(t, "asking of a state "+c.name, lines, c.v.Lines[q], markLine)
 		}
 		want := slices.Clone(b)
 		fillState(s)
@@ -102,20 +75,20 @@ func TestStatesHandedInStay(t *testing.T) {
 func TestBytesHandedInStay(t *testing.T) {
 	for _, c := range rightRecords() {
 		want := plainBytes(c.v)
-		b := roomy(want, 0xaa)
+		b := aid.Roomy(want, 0xaa)
 		r, _ := record.Read(b)
-		checkRoom(t, "Read of a record "+c.name, b, want, 0xaa)
-		fill(b, 0x55)
+		aid.CheckRoom(t, "Read of a record "+c.name, b, want, 0xaa)
+		aid.Fill(b, 0x55)
 		if !alike(r, c.v) {
 			t.Errorf("R4: what was read of a record %s follows what was handed in", c.name)
 		}
 	}
 	for _, c := range rightStates() {
 		want := plainStateBytes(c.v)
-		b := roomy(want, 0xaa)
+		b := aid.Roomy(want, 0xaa)
 		s, _ := record.ReadState(b)
-		checkRoom(t, "ReadState of a state "+c.name, b, want, 0xaa)
-		fill(b, 0x55)
+		aid.CheckRoom(t, "ReadState of a state "+c.name, b, want, 0xaa)
+		aid.Fill(b, 0x55)
 		if !alikeStates(s, c.v) {
 			t.Errorf("R4: what was read of a state %s follows what was handed in", c.name)
 		}
@@ -128,8 +101,8 @@ func TestAnswersShareNothing(t *testing.T) {
 		other, _ := record.Bytes(c.v)
 		r, _ := record.Read(b)
 		again, _ := record.Read(b)
-		fill(other, 0x55)
-		fill(again.Writes, markWrite)
+		aid.Fill(other, 0x55)
+		aid.Fill(again.Writes, markWrite)
 		if !bytes.Equal(b, plainBytes(c.v)) || !alike(r, c.v) {
 			t.Errorf("R4: answers of a record %s share memory", c.name)
 		}
@@ -139,7 +112,7 @@ func TestAnswersShareNothing(t *testing.T) {
 		other, _ := record.StateBytes(c.v)
 		s, _ := record.ReadState(b)
 		again, _ := record.ReadState(b)
-		fill(other, 0x55)
+		aid.Fill(other, 0x55)
 		fillState(again)
 		if !bytes.Equal(b, plainStateBytes(c.v)) || !alikeStates(s, c.v) {
 			t.Errorf("R4: answers of a state %s share memory", c.name)
@@ -151,7 +124,7 @@ func TestTheListsOfAnAnswerShareNothing(t *testing.T) {
 	for _, c := range rightStates() {
 		for q := range 3 {
 			s, _ := record.ReadState(plainStateBytes(c.v))
-			fill(s.Lines[q], markLine)
+			aid.Fill(s.Lines[q], markLine)
 			for p := range 3 {
 				if p != q && !slices.Equal(s.Lines[p], c.v.Lines[p]) {
 					t.Errorf("R4: the lines of partitions %d and %d of a state %s share memory", p, q, c.name)

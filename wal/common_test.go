@@ -8,6 +8,7 @@ import (
 	"strings"
 	"testing"
 
+	"flume/aid"
 	"flume/api"
 	"flume/disk"
 	"flume/wal"
@@ -156,14 +157,6 @@ func alike(a, b api.Record) bool {
 	return a.Place == b.Place && a.Yes == b.Yes && slices.Equal(a.Writes, b.Writes)
 }
 
-func twin(d api.Disk) api.Disk {
-	return api.Disk{Now: slices.Clone(d.Now), Sure: slices.Clone(d.Sure)}
-}
-
-func sameDisk(a, b api.Disk) bool {
-	return slices.Equal(a.Now, b.Now) && slices.Equal(a.Sure, b.Sure)
-}
-
 func checkAt(t *testing.T, what string, d api.Disk, place int, want api.Record) {
 	t.Helper()
 	if r, ok := wal.At(d, place); !ok || !alike(r, want) {
@@ -196,7 +189,7 @@ func checkPrefixRefused(t *testing.T, what string, d api.Disk, behind int) {
 // checkPut holds Put against what both rows have to be.
 func checkPut(t *testing.T, what string, d api.Disk, r api.Record, want api.Disk) {
 	t.Helper()
-	if got, e := wal.Put(d, r); e != api.OK || !sameDisk(got, want) {
+	if got, e := wal.Put(d, r); e != api.OK || !aid.SameDisk(got, want) {
 		t.Errorf("%s: Put of place %d is %v, or its sectors are others", what, r.Place, e)
 	}
 }

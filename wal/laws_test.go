@@ -3,45 +3,17 @@ package wal_test
 import (
 	"testing"
 
+	"flume/aid"
 	"flume/api"
 	"flume/disk"
 	"flume/wal"
 )
-
-const allLost = 1<<33 - 1
-
-// crashes answers crashes of every kind: nothing, everything, one sector, all but one, some.
-func crashes() []uint64 {
-	all := []uint64{0, allLost, 0x155555555, 0x0AAAAAAAA, 0x0000FFFF, 0x1FFFF0000}
-	for i := range 33 {
-		all = append(all, 1<<i, allLost&^(1<<i))
-	}
-	return all
-}
 
 func put(t *testing.T, d api.Disk, r api.Record) api.Disk {
 	t.Helper()
 	left, e := wal.Put(d, r)
 	if e != api.OK {
 		t.Fatalf("P6.2: Put of place %d is %v", r.Place, e)
-	}
-	return left
-}
-
-func sync(t *testing.T, d api.Disk) api.Disk {
-	t.Helper()
-	left, e := disk.Sync(d)
-	if e != api.OK {
-		t.Fatalf("Sync is %v", e)
-	}
-	return left
-}
-
-func crash(t *testing.T, d api.Disk, lost uint64) api.Disk {
-	t.Helper()
-	left, e := disk.Crash(d, lost)
-	if e != api.OK {
-		t.Fatalf("Crash is %v", e)
 	}
 	return left
 }
@@ -53,7 +25,7 @@ func behindRounds(t *testing.T, ckpt int) api.Disk {
 	for place := max(1, ckpt-70); place <= ckpt; place++ {
 		d = put(t, d, of(place))
 	}
-	return sync(t, d)
+	return aid.Synced(t, d)
 }
 
 func TestWhatWasPutAndSyncedIsThePrefixBehindAnyCrash(t *testing.T) {
@@ -65,16 +37,16 @@ func TestWhatWasPutAndSyncedIsThePrefixBehindAnyCrash(t *testing.T) {
 				t.Fatalf("P6.1: no room for %d behind %d", place, ckpt)
 			}
 			d = put(t, d, of(place))
-			for _, lost := range crashes() {
+			for _, lost := range aid.Crashes() {
 				known := place
 				if lost>>(place%round)&1 == 1 { // the last one alone was not synced
 					known--
 				}
-				checkPrefix(t, "P6.3: put, crashed", crash(t, d, lost), ckpt, recordsOf(from(ckpt+1, known)))
+				checkPrefix(t, "P6.3: put, crashed", aid.Crashed(t, d, lost), ckpt, recordsOf(from(ckpt+1, known)))
 			}
-			d = sync(t, d)
-			for _, lost := range crashes() {
-				checkPrefix(t, "P6.3: synced, crashed", crash(t, d, lost), ckpt, recordsOf(from(ckpt+1, place)))
+			d = aid.Synced(t, d)
+			for _, lost := range aid.Crashes() {
+				checkPrefix(t, "P6.3: synced, crashed", aid.Crashed(t, d, lost), ckpt, recordsOf(from(ckpt+1, place)))
 			}
 		}
 	}
@@ -110,7 +82,7 @@ func TestCrashesOfWhatWasNotSyncedBetween(t *testing.T) {
 					known++
 				}
 			}
-			left := crash(t, d, lost)
+			left := aid.Crashed(t, d, lost)
 			checkPrefix(t, "P6.3: not synced between", left, ckpt, recordsOf(from(ckpt+1, known)))
 			for place := range 40 {
 				behind := max(0, ckpt-30) + place
@@ -127,7 +99,7 @@ func checkLate(t *testing.T, d api.Disk, last int) {
 	t.Helper()
 	for place := max(1, last-70); place <= last; place++ {
 		for _, r := range []api.Record{of(place), other(place)} {
-			if left := put(t, d, r); !sameDisk(left, d) {
+			if left := put(t, d, r); !aid.SameDisk(left, d) {
 				t.Fatalf("P6.3: behind %d, place %d put late changes something", last, place)
 			}
 		}
@@ -139,26 +111,17 @@ func TestAnOlderOnePutLateChangesNothing(t *testing.T) {
 	for place := 1; place <= 100; place++ {
 		d = put(t, d, of(place))
 		checkLate(t, d, place)
-		lost := crash(t, d, allLost)
+		lost := aid.Crashed(t, d, aid.AllLost)
 		checkLate(t, lost, place-1)
 		late := put(t, lost, other(place)) // the one that was lost is put anew, and stands
 		checkAt(t, "P6.3: put anew", late, place, other(place))
-		d = sync(t, d)
+		d = aid.Synced(t, d)
 		checkLate(t, d, place)
 	}
 }
 
-// rolling answers a drawer of numbers below n, alike in each run.
-func rolling() func(n int) int {
-	state := uint64(6)
-	return func(n int) int {
-		state = state*6364136223846793005 + 1442695040888963407
-		return int(state >> 33 % uint64(n))
-	}
-}
-
 func TestLongLives(t *testing.T) {
-	roll := rolling()
+	roll := aid.Rolling(6)
 	for life := range 12 {
 		ckpt := life * roll(9000)
 		d, last := behindRounds(t, ckpt), ckpt // all up to last are put, and but the last sure
@@ -166,7 +129,7 @@ func TestLongLives(t *testing.T) {
 			switch roll(6) {
 			case 0:
 				lost := uint64(roll(1<<30)) << roll(4)
-				if left := crash(t, d, lost); sameDisk(left, crash(t, d, 0)) {
+				if left := aid.Crashed(t, d, lost); aid.SameDisk(left, aid.Crashed(t, d, 0)) {
 					d = left
 				} else {
 					d, last = left, last-1
@@ -178,7 +141,7 @@ func TestLongLives(t *testing.T) {
 					d = put(t, d, other(max(1, last-roll(60)))) // late
 				}
 			default:
-				d = sync(t, d)
+				d = aid.Synced(t, d)
 				if wal.Room(last+1, ckpt) {
 					last++
 					d = put(t, d, of(last))

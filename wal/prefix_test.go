@@ -4,6 +4,7 @@ import (
 	"slices"
 	"testing"
 
+	"flume/aid"
 	"flume/api"
 	"flume/disk"
 	"flume/wal"
@@ -93,7 +94,7 @@ func TestPut(t *testing.T) {
 	d := laid(from(1, 40)...)
 	copy(d.Sure, d.Now)
 	for _, place := range []int{41, 42, 63, 64, 65, 72, 73, 105, 500, greatest - 1, greatest} {
-		want := twin(d)
+		want := aid.Twin(d)
 		lay(want, of(place))
 		checkPut(t, "P6.2: over what stood", d, of(place), want)
 		checkPut(t, "P6.2: over what stood, not sure", api.Disk{Now: d.Now, Sure: disk.New().Sure}, of(place), api.Disk{Now: want.Now, Sure: disk.New().Sure})
@@ -110,7 +111,7 @@ func TestPutIsFenced(t *testing.T) {
 	}
 	checkPut(t, "P6.2: below a greater number", d, of(47), d)
 	checkPut(t, "P6.2: below a greater number", d, of(15+32*124), d)
-	want := twin(d)
+	want := aid.Twin(d)
 	lay(want, of(15+32*126))
 	checkPut(t, "P6.2: above it", d, of(15+32*126), want)
 }
