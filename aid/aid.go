@@ -36,6 +36,12 @@ func Fill[T any](l []T, mark T) {
 	}
 }
 
+// Outside answers numbers that are not from low to high: just past both, far beyond, and such that fewer bits would make one of them.
+func Outside(low, high int) []int {
+	const far = 1 << 62
+	return []int{low - 1, low - 2, high + 1, high + 2, -far, far, -far - far, far - 1 + far, low + 1<<32, high + 1<<24, low - 1<<32}
+}
+
 // Rolling answers a drawer of numbers from 0 on, below n: the same ones for the same seed.
 func Rolling(seed int) func(n int) int {
 	state := uint64(seed)

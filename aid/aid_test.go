@@ -42,6 +42,20 @@ func TestFillFillsTheRoomToo(t *testing.T) {
 	}
 }
 
+func TestOutsideIsOutsideOnBothSides(t *testing.T) {
+	for _, c := range [][2]int{{0, 0}, {0, 23}, {1, 1 << 20}, {-1, 1<<20 - 1}} {
+		l := aid.Outside(c[0], c[1])
+		if !slices.Contains(l, c[0]-1) || !slices.Contains(l, c[1]+1) {
+			t.Errorf("outside %v are %v: not what is just past it", c, l)
+		}
+		for _, n := range l {
+			if c[0] <= n && n <= c[1] {
+				t.Errorf("outside %v is %d", c, n)
+			}
+		}
+	}
+}
+
 func TestRollingIsTheSameForTheSameSeed(t *testing.T) {
 	a, b, other := aid.Rolling(1), aid.Rolling(1), aid.Rolling(2)
 	differ, drawn := false, map[int]int{}

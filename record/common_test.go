@@ -4,6 +4,7 @@ import (
 	"slices"
 	"strconv"
 
+	"flume/aid"
 	"flume/api"
 )
 
@@ -82,11 +83,11 @@ func wrongLists() []named[[]api.Write] {
 	c.add("keys that fall all the way", func(l *[]api.Write) { slices.Reverse(*l) })
 	for i := range 3 {
 		at := " in write " + strconv.Itoa(i)
-		for _, n := range outside(0, lastKey) {
+		for _, n := range aid.Outside(0, lastKey) {
 			c.add("key "+strconv.Itoa(n)+at, func(l *[]api.Write) { (*l)[i].Key = n })
 			c.add("key "+strconv.Itoa(n)+" alone", func(l *[]api.Write) { *l = writes(n, 1) })
 		}
-		for _, n := range outside(0, 255) {
+		for _, n := range aid.Outside(0, 255) {
 			c.add("value "+strconv.Itoa(n)+at, func(l *[]api.Write) { (*l)[i].Value = n })
 		}
 	}
@@ -99,7 +100,7 @@ func wrongRecords() []named[api.Record] {
 	c.add("nothing", func(r *api.Record) { *r = api.Record{} })
 	c.add("a no with writes", func(r *api.Record) { r.Yes = false })
 	c.add("a no with a write", func(r *api.Record) { r.Yes, r.Writes = false, writes(0, 0) })
-	for _, n := range outside(1, greatest) {
+	for _, n := range aid.Outside(1, greatest) {
 		c.add("place "+strconv.Itoa(n), func(r *api.Record) { r.Place = n })
 		c.add("a no of place "+strconv.Itoa(n), func(r *api.Record) { *r = api.Record{Place: n} })
 	}
@@ -108,12 +109,6 @@ func wrongRecords() []named[api.Record] {
 		c.add("a no with "+l.name, func(r *api.Record) { r.Yes, r.Writes = false, l.v })
 	}
 	return c.all
-}
-
-// outside answers numbers that are not from low to high: just past both, far beyond, and such that fewer bits would make one of them.
-func outside(low, high int) []int {
-	const far = 1 << 62
-	return []int{low - 1, low - 2, high + 1, high + 2, -far, far, -far - far, far - 1 + far, low + 1<<32, high + 1<<24, low - 1<<32}
 }
 
 // plainMay tells whether the record may be, as the chapter tells it.

@@ -4,6 +4,7 @@ import (
 	"slices"
 	"strconv"
 
+	"flume/aid"
 	"flume/api"
 )
 
@@ -110,7 +111,7 @@ func rightStates() []named[api.State] {
 // wrongStates answers states that may not be.
 func wrongStates() []named[api.State] {
 	c := changed[api.State]{sample: sampleState}
-	for _, n := range outside(0, greatest) {
+	for _, n := range aid.Outside(0, greatest) {
 		c.add("place "+strconv.Itoa(n), func(s *api.State) { s.Place = n })
 		c.add("nothing at place "+strconv.Itoa(n), func(s *api.State) { *s = api.State{Place: n} })
 	}
@@ -142,13 +143,13 @@ func addWrongItems(c *changed[api.State]) {
 	c.add("items' keys that fall at the end", func(s *api.State) { s.Items[2].Key = 4 })
 	for i := range 3 {
 		in := " in item " + strconv.Itoa(i)
-		for _, n := range outside(0, lastKey) {
+		for _, n := range aid.Outside(0, lastKey) {
 			c.add("key "+strconv.Itoa(n)+in, func(s *api.State) { s.Items[i].Key = n })
 		}
-		for _, n := range outside(1, 70000) {
+		for _, n := range aid.Outside(1, 70000) {
 			c.add("place "+strconv.Itoa(n)+in, func(s *api.State) { s.Items[i].Place = n })
 		}
-		for _, n := range outside(0, 255) {
+		for _, n := range aid.Outside(0, 255) {
 			c.add("value "+strconv.Itoa(n)+in, func(s *api.State) { s.Items[i].Value = n })
 		}
 	}
@@ -177,7 +178,7 @@ func addWrongLines(c *changed[api.State], q int) {
 		{"offset", 0, lastOffset, func(l *api.Line) *int { return &l.Offset }},
 	}
 	for _, f := range fields {
-		for _, n := range outside(f.low, f.high) {
+		for _, n := range aid.Outside(f.low, f.high) {
 			name := f.name + " " + strconv.Itoa(n) + " in partition " + strconv.Itoa(q)
 			for i := range 4 {
 				c.add(name+", line "+strconv.Itoa(i), func(s *api.State) {
@@ -225,7 +226,7 @@ func addWrongRows(c *changed[api.State], q int) {
 
 func addWrongCuts(c *changed[api.State], q int) {
 	in := " in partition " + strconv.Itoa(q)
-	for _, n := range outside(0, 70000) {
+	for _, n := range aid.Outside(0, 70000) {
 		c.add("cut "+strconv.Itoa(n)+in, func(s *api.State) { s.Cut[q] = n })
 		c.add("cut "+strconv.Itoa(n)+" of no lines"+in, func(s *api.State) { s.Lines[q], s.Cut[q] = nil, n })
 		c.add("cut "+strconv.Itoa(n)+" of one line"+in, func(s *api.State) { s.Lines[q], s.Cut[q] = []api.Line{{Place: 70000}}, n })
